@@ -605,7 +605,7 @@ func TestP13Idle(t *testing.T) {
 	})
 }
 
-// emptied returns o with every empty list of characters nil, or none of them.
+// emptied returns o with none in the place of every empty list of characters.
 func emptied(o []impl.Part, none []int) []impl.Part {
 	l := slices.Clone(o)
 	for i, p := range l {
