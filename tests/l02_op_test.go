@@ -251,6 +251,20 @@ func tooLong() [][]impl.Part {
 	}
 }
 
+// notOk are operations that are not OpOk: too long, or with a bad part alone or
+// at every place of a good operation on four characters.
+func notOk() [][]impl.Part {
+	l := tooLong()
+	good := op(keep(2), put(97, 98), drop(2))
+	for _, p := range badParts() {
+		l = append(l, op(p), op(p, p))
+		for at := range len(good) + 1 {
+			l = append(l, slices.Insert(slices.Clone(good), at, p))
+		}
+	}
+	return l
+}
+
 func TestP13OpConstants(t *testing.T) {
 	if impl.MaxText != 200 || impl.MaxParts != 600 {
 		t.Error("MaxText or MaxParts differs from the document")

@@ -292,12 +292,17 @@ func TestP4ApplyAndInvertRandomOps(t *testing.T) {
 	}
 }
 
+// withoutEffect are parts, one or several, that have none.
+func withoutEffect() [][]impl.Part {
+	return [][]impl.Part{op(keep(0)), op(put()), op(drop(0)), op(drop(0), keep(0), put(), keep(0))}
+}
+
 // TestP4PartsWithoutEffect puts such parts at the beginning, in the middle and
 // at the end of operations.
 func TestP4PartsWithoutEffect(t *testing.T) {
 	for _, c := range applyCases() {
 		for at := range len(c.o) + 1 {
-			for _, none := range [][]impl.Part{op(keep(0)), op(put()), op(drop(0)), op(drop(0), keep(0), put(), keep(0))} {
+			for _, none := range withoutEffect() {
 				o := slices.Insert(slices.Clone(c.o), at, none...)
 				if got, ok := impl.Apply(o, c.t); !ok || !slices.Equal(got, c.result) {
 					t.Errorf("Apply(%v, %v): %v %v, not %v", o, c.t, got, ok, c.result)
@@ -520,18 +525,23 @@ func TestP13ApplyAllWithoutOperations(t *testing.T) {
 	}
 }
 
+// failsOn returns operations that do not apply to n characters, with n above 0,
+// or are not OpOk.
+func failsOn(n int) [][]impl.Part {
+	return [][]impl.Part{
+		op(keep(n + 1)), op(drop(n + 1)), op(keep(n - 1)), op(drop(n-1), put(97)), nil,
+		op(keep(n), impl.Part{}), op(keep(n), put(-1)), op(keep(n), keep(0), drop(-1)),
+		op(keep(n), put(letters(impl.MaxText)...)), append(op(keep(n)), repeated(keep(0), impl.MaxParts)...),
+	}
+}
+
 // TestP13ApplyAllWithOneThatFails puts such an operation at the beginning, in
 // the middle and at the end of a list that can be applied without it.
 func TestP13ApplyAllWithOneThatFails(t *testing.T) {
 	ops, texts := chain()
 	for at, text := range texts {
 		n := len(text)
-		bad := [][]impl.Part{
-			op(keep(n + 1)), op(drop(n + 1)), op(keep(n - 1)), op(drop(n-1), put(97)), nil,
-			op(keep(n), impl.Part{}), op(keep(n), put(-1)), op(keep(n), keep(0), drop(-1)),
-			op(keep(n), put(letters(impl.MaxText)...)), append(op(keep(n)), repeated(keep(0), impl.MaxParts)...),
-		}
-		for _, o := range bad {
+		for _, o := range failsOn(n) {
 			l := slices.Insert(slices.Clone(ops), at, o)
 			if got, ok := impl.ApplyAll(l, texts[0]); ok || len(got) != 0 {
 				t.Errorf("ApplyAll(%v, %v): %v %v", l, texts[0], got, ok)

@@ -253,9 +253,8 @@ func TestP13ComposePartsWithoutEffect(t *testing.T) {
 			t.Errorf("Compose(%v, %v): %v %v, not %v", a, b, got, ok, want)
 		}
 	}
-	nones := [][]impl.Part{op(keep(0)), op(put()), op(drop(0)), op(drop(0), keep(0), put(), keep(0))}
 	for _, c := range slices.Concat(oneSided(), bothSided(), joined()) {
-		for _, none := range nones {
+		for _, none := range withoutEffect() {
 			for i := range len(c.a) + 1 {
 				a := slices.Insert(slices.Clone(c.a), i, none...)
 				check(a, c.b, c.want)
@@ -324,15 +323,7 @@ func TestP13ComposeOfMisfits(t *testing.T) {
 // TestP13ComposeOfBadOps composes operations that are not OpOk with others, of
 // which some have the length that the valid parts ask for.
 func TestP13ComposeOfBadOps(t *testing.T) {
-	good := op(keep(2), put(97, 98), drop(2))
-	bad := tooLong()
-	for _, p := range badParts() {
-		bad = append(bad, op(p), op(p, p))
-		for at := range len(good) + 1 {
-			bad = append(bad, slices.Insert(slices.Clone(good), at, p))
-		}
-	}
-	for _, o := range bad {
+	for _, o := range notOk() {
 		for _, n := range []int{0, 1, 2, 3, 4, 5, impl.MaxText - 1, impl.MaxText} {
 			for _, other := range [][]impl.Part{op(keep(n)), op(drop(n), put(letters(n)...)), op(keep(n), put(), drop(0))} {
 				refusesCompose(t, o, other)
@@ -590,12 +581,7 @@ func TestP13ComposeAllWithOneThatFails(t *testing.T) {
 	ops, texts := chain()
 	for at, text := range texts {
 		n := len(text)
-		bad := [][]impl.Part{
-			op(keep(n + 1)), op(drop(n + 1)), op(keep(n - 1)), op(drop(n-1), put(97)), nil,
-			op(keep(n), impl.Part{}), op(keep(n), put(-1)), op(keep(n), keep(0), drop(-1)),
-			op(keep(n), put(letters(impl.MaxText)...)), append(op(keep(n)), repeated(keep(0), impl.MaxParts)...),
-		}
-		for _, o := range bad {
+		for _, o := range failsOn(n) {
 			l := slices.Insert(slices.Clone(ops), at, o)
 			if got, ok := impl.ComposeAll(l, 3); ok || len(got) != 0 {
 				t.Errorf("ComposeAll(%v, 3): %v %v", l, got, ok)
