@@ -144,6 +144,11 @@ func isZeroDoc(d impl.Doc) bool {
 	return docAlike(d, impl.Doc{})
 }
 
+// soundEntry checks an entry without the program, but for OpOk.
+func soundEntry(e impl.Entry) bool {
+	return e.Client >= 1 && e.Client <= 8 && e.Seq >= 1 && e.Seq <= 1000000000 && impl.OpOk(e.O) && alike(e.O, stepwiseNorm(e.O))
+}
+
 // sound checks a document without the program, but for OpOk.
 func sound(d impl.Doc) bool {
 	if !regexp.MustCompile(`\A[a-z]{1,8}\z`).MatchString(d.Name) || d.From < 0 || d.From > 999999000 || len(d.List) > 8 {
@@ -156,7 +161,7 @@ func sound(d impl.Doc) bool {
 		}
 	}
 	for _, e := range d.List {
-		if e.Client < 1 || e.Client > 8 || e.Seq < 1 || e.Seq > 1000000000 || !impl.OpOk(e.O) || !alike(e.O, stepwiseNorm(e.O)) {
+		if !soundEntry(e) {
 			return false
 		}
 		if kept, _, drops := lengths(e.O); kept+drops != len(now) {
