@@ -1207,23 +1207,31 @@ func spoilHub(h impl.Hub) {
 // separateResult reports whether no two slices of r share memory. It overwrites
 // all of them, up to their capacity.
 func separateResult(r hubResult) bool {
-	lists := [][]impl.Entry{r.list, {{O: op(put(r.text...))}}}
-	for _, d := range r.h.Docs {
-		// The text is looked at as the characters of one more operation.
-		lists = append(lists, d.List, []impl.Entry{{O: op(put(d.Text...))}})
+	return separateHub(r.h, [][]int{r.text}, [][]impl.Entry{r.list})
+}
+
+// separateHub is the same for a hub with texts and lists.
+func separateHub(h impl.Hub, texts [][]int, lists [][]impl.Entry) bool {
+	lists = slices.Clone(lists)
+	for _, d := range h.Docs {
+		texts, lists = append(texts, d.Text), append(lists, d.List)
 	}
-	for _, s := range r.h.Subs {
+	for _, s := range h.Subs {
 		lists = append(lists, s.R.List)
+	}
+	for _, text := range texts {
+		// A text is looked at as the characters of one more operation.
+		lists = append(lists, []impl.Entry{{O: op(put(text...))}})
 	}
 	if !separateEntries(lists...) {
 		return false
 	}
-	for i, d := range r.h.Docs {
+	for i, d := range h.Docs {
 		for j := range d.Seen[:cap(d.Seen)] {
 			d.Seen[:cap(d.Seen)][j].Client = i
 		}
 	}
-	for i, d := range r.h.Docs {
+	for i, d := range h.Docs {
 		for _, s := range d.Seen[:cap(d.Seen)] {
 			if s.Client != i {
 				return false
